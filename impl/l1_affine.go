@@ -23,6 +23,9 @@ const (
 // varNames has the name of each variable at its number.
 const varNames = "ijkl"
 
+// signs are in front of terms and constants.
+const signs = "+-"
+
 // AffineValid reports whether a is valid.
 func AffineValid(a Affine) bool {
 	return len(a.Coefs) == MaxVars && allWithin(a.Coefs, MaxCoef) && within(a.Const, MaxConst)
@@ -46,7 +49,7 @@ func FormatAffine(a Affine) string {
 func ParseAffine(text string) (Affine, bool) {
 	c := cursor{text: text}
 	x, ok := c.terms()
-	// The cursor accepts terms in any order and number, but each expression has only one text.
+	// The cursor accepts terms in any order and number and need not be at the end, but each expression has only one text.
 	if !ok || x.text() != text {
 		return Affine{}, false
 	}
@@ -124,6 +127,12 @@ func linearOf(a Affine) (linear, bool) {
 	x := linear{constant: a.Const}
 	copy(x.coefs[:], a.Coefs)
 	return x, true
+}
+
+// linearWithin returns a as a linear, and whether a is valid and uses only the variables of a number of loops.
+func linearWithin(a Affine, loops int) (linear, bool) {
+	x, ok := linearOf(a)
+	return x, ok && x.depth() <= loops
 }
 
 // affine returns x in new memory, and whether x is within the limits.
@@ -273,33 +282,28 @@ func (c *cursor) number() (int, bool) {
 	return n, err == nil
 }
 
-// variable reads the name of a variable and returns its number.
-func (c *cursor) variable() (int, bool) {
-	for v := range MaxVars {
-		if c.take(varNames[v]) {
-			return v, true
+// oneOf passes over the next byte if it is one of a list, and returns its index there.
+func (c *cursor) oneOf(list string) (int, bool) {
+	for n := range len(list) {
+		if c.take(list[n]) {
+			return n, true
 		}
 	}
 	return 0, false
 }
 
-// terms reads terms and constants up to the end of the text and returns their sum.
+// terms reads terms and constants as long as signs follow, and returns their sum.
 func (c *cursor) terms() (linear, bool) {
-	var x linear
-	for !c.done() {
-		sign := 1
-		if c.take('-') {
-			sign = -1
-		} else {
-			c.take('+')
-		}
-		y, ok := c.term()
+	var sum linear
+	sign, _ := c.oneOf(signs)
+	for more := true; more; sign, more = c.oneOf(signs) {
+		x, ok := c.term()
 		if !ok {
 			return linear{}, false
 		}
-		x = x.plus(y.times(sign))
+		sum = sum.plus(x.times(1 - 2*sign))
 	}
-	return x, true
+	return sum, true
 }
 
 // term reads a term or a constant without its sign.
@@ -313,7 +317,7 @@ func (c *cursor) term() (linear, bool) {
 	if !counted {
 		n = 1
 	}
-	v, ok := c.variable()
+	v, ok := c.oneOf(varNames)
 	if !ok {
 		return linear{}, false
 	}
