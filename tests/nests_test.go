@@ -1,6 +1,7 @@
 package tests
 
 import (
+	"iter"
 	"math"
 	"math/rand"
 	"regexp"
@@ -240,42 +241,66 @@ func nestForm() func(text string) bool {
 	}
 }
 
+// nearTexts yields a text, and those that differ from it in a byte, which is one of the given ones where it is new.
+func nearTexts(text string, bytes string) iter.Seq[string] {
+	return func(yield func(string) bool) {
+		for n := range len(text) {
+			for _, b := range bytes {
+				if !yield(text[:n]+string(b)+text[n:]) || !yield(text[:n]+string(b)+text[n+1:]) {
+					return
+				}
+			}
+			if !yield(text[:n] + text[n+1:]) {
+				return
+			}
+		}
+		for _, b := range bytes {
+			if !yield(text + string(b)) {
+				return
+			}
+		}
+		yield(text)
+	}
+}
+
+// tally counts the arguments that are accepted and refused, so that a test is known to have tried both.
+type tally struct{ accepted, refused int }
+
+func (c *tally) add(accepted bool) {
+	if accepted {
+		c.accepted++
+	} else {
+		c.refused++
+	}
+}
+
+func (c *tally) check(t *testing.T, least int) {
+	t.Helper()
+	if c.accepted < least || c.refused < least {
+		t.Errorf("%d arguments are accepted and %d are refused", c.accepted, c.refused)
+	}
+}
+
 // TestParseNestNearTexts compares ParseNest with regular expressions for texts that differ in a byte from that of a nest.
 func TestParseNestNearTexts(t *testing.T) {
 	expected := nestForm()
-	accepted, refused := 0, 0
+	var counts tally
 	check := func(s string) {
 		nest, ok := impl.ParseNest(s)
 		if ok != expected(s) || ok && impl.FormatNest(nest) != s || !ok && len(nest) != 0 {
 			t.Errorf("ParseNest(%q) = %v, %v", s, nest, ok)
 		}
-		if ok {
-			accepted++
-		} else {
-			refused++
-		}
+		counts.add(ok)
 	}
 	for _, lines := range validNests() {
-		text := nestText(lines)
-		check(text)
-		for n := range len(text) + 1 {
-			for _, b := range "\n ,+-*0129ijklmrf\x00" {
-				check(text[:n] + string(b) + text[n:])
-				if n < len(text) {
-					check(text[:n] + string(b) + text[n+1:])
-				}
-			}
-			if n < len(text) {
-				check(text[:n] + text[n+1:])
-			}
+		for s := range nearTexts(nestText(lines), "\n ,+-*0129ijklmrf\x00") {
+			check(s)
 		}
 	}
 	for _, s := range badNestTexts() {
 		check(s)
 	}
-	if accepted < 500 || refused < 500 {
-		t.Errorf("%d texts are accepted and %d are refused", accepted, refused)
-	}
+	counts.check(t, 500)
 }
 
 func TestNestPoints(t *testing.T) {

@@ -595,36 +595,23 @@ func stmtForm() func(text string) bool {
 // TestParseStmtNearTexts compares ParseStmt with regular expressions for texts that differ in a byte from that of a statement.
 func TestParseStmtNearTexts(t *testing.T) {
 	expected := stmtForm()
-	accepted, refused := 0, 0
+	var counts tally
 	check := func(text string) {
 		s, ok := impl.ParseStmt(text)
 		if ok != expected(text) || ok && impl.FormatStmt(s) != text || !ok && !stmtIsZero(s) {
 			t.Errorf("ParseStmt(%q) = %v, %v", text, s, ok)
 		}
-		if ok {
-			accepted++
-		} else {
-			refused++
-		}
+		counts.add(ok)
 	}
 	for _, text := range validStmts() {
-		check(text)
-		for n := range len(text) + 1 {
-			for _, b := range " ,=+-*()[]{}0129ijlmABE\x00" {
-				check(text[:n] + string(b) + text[n:])
-				if n < len(text) {
-					check(text[:n] + string(b) + text[n+1:])
-				}
-			}
-			if n < len(text) {
-				check(text[:n] + text[n+1:])
-			}
-			// A leaf in place of another one makes the expression deeper and adds nodes.
+		for s := range nearTexts(text, " ,=+-*()[]{}0129ijlmABE\x00") {
+			check(s)
+		}
+		for n := range len(text) {
+			// An operator in place of a leaf makes the expression deeper and adds nodes.
 			check(text[:n] + "(1+2)" + text[n:])
-			if n < len(text) {
-				check(text[:n] + "(1+2)" + text[n+1:])
-				check(text[:n] + "(B[i,j]-({k}*7))" + text[n+1:])
-			}
+			check(text[:n] + "(1+2)" + text[n+1:])
+			check(text[:n] + "(B[i,j]-({k}*7))" + text[n+1:])
 		}
 	}
 	for _, text := range badStmtTexts() {
@@ -632,9 +619,7 @@ func TestParseStmtNearTexts(t *testing.T) {
 			check(text)
 		}
 	}
-	if accepted < 1000 || refused < 1000 {
-		t.Errorf("%d texts are accepted and %d are refused", accepted, refused)
-	}
+	counts.check(t, 1000)
 }
 
 func randomAffine(r *rand.Rand) impl.Affine {
