@@ -834,27 +834,39 @@ func TestInstanceCells(t *testing.T) {
 	}
 }
 
-// TestInstanceCellsRefuses checks instances whose parts, statements or points are not those of the program.
-func TestInstanceCellsRefuses(t *testing.T) {
-	p := programOf(t, "array A 3/part/for 0 3/A[i]=(A[1]-1)/A[2]=1/part/A[0]=A[1]/part/for 0 0/A[i]=1/part/for 0 1/for 0 1/A[i]=A[j]")
-	real := impl.ProgramInstances(p)
+// refusingProgram has parts with different numbers of loops and statements, and one without points.
+const refusingProgram = "array A 3/part/for 0 3/A[i]=(A[1]-1)/A[2]=1/part/A[0]=A[1]/part/for 0 0/A[i]=1/part/for 0 1/for 0 1/A[i]=A[j]"
+
+// instancesNear yields the instances of refusingProgram and others, whose parts, statements or points are not those of the program.
+func instancesNear() iter.Seq[impl.Instance] {
 	indices := []int{-1, 0, 1, 2, 3, 4, 5, math.MaxInt, math.MinInt}
 	points := append(append(badPoints(), boxPoints(1, 4)...), boxPoints(2, 2)...)
 	points = append(points, nil, []int{0, 0, 0}, []int{9999}, []int{0, 9999}, []int{0, 0, 0, 0})
-	found := 0
-	for _, part := range indices {
-		for _, stmt := range indices {
-			for _, point := range points {
-				x := impl.Instance{Part: part, Stmt: stmt, Point: point}
-				in := slices.ContainsFunc(real, func(y impl.Instance) bool { return sameInstance(x, y) })
-				reads, write, ok := impl.InstanceCells(p, x)
-				if ok != in || !ok && (len(reads) != 0 || write != 0) {
-					t.Errorf("InstanceCells(%v) = %v, %d, %v", x, reads, write, ok)
-				}
-				if ok {
-					found++
+	return func(yield func(impl.Instance) bool) {
+		for _, part := range indices {
+			for _, stmt := range indices {
+				for _, point := range points {
+					if !yield(impl.Instance{Part: part, Stmt: stmt, Point: point}) {
+						return
+					}
 				}
 			}
+		}
+	}
+}
+
+func TestInstanceCellsRefuses(t *testing.T) {
+	p := programOf(t, refusingProgram)
+	real := impl.ProgramInstances(p)
+	found := 0
+	for x := range instancesNear() {
+		in := slices.ContainsFunc(real, func(y impl.Instance) bool { return sameInstance(x, y) })
+		reads, write, ok := impl.InstanceCells(p, x)
+		if ok != in || !ok && (len(reads) != 0 || write != 0) {
+			t.Errorf("InstanceCells(%v) = %v, %d, %v", x, reads, write, ok)
+		}
+		if ok {
+			found++
 		}
 	}
 	if found != len(real) {
@@ -916,20 +928,9 @@ func TestProgramMemory(t *testing.T) {
 	}
 }
 
-// TestInstancesMemory checks that the points of instances and lists of cells are in memory of their own.
-func TestInstancesMemory(t *testing.T) {
-	p := programOf(t, "array A 3/array B 2 4/part/for 0 2/for 0 2/A[i]=(A[j]+B[i,j])/A[j]=({i}-1)/part/A[0]=1")
-	kept := copyProgram(p)
-	var lists [][]int
-	for range 2 {
-		list := impl.ProgramInstances(p)
-		_ = append(list, impl.Instance{Part: 7})
-		for _, x := range list {
-			lists = append(lists, x.Point)
-			reads, _, _ := impl.InstanceCells(p, x)
-			lists = append(lists, reads)
-		}
-	}
+// checkOwnMemory changes the numbers of lists and appends to them, which must not change the other lists.
+func checkOwnMemory(t *testing.T, lists [][]int) {
+	t.Helper()
 	number := 0
 	for _, list := range lists {
 		_ = append(list, -1, -1)
@@ -947,6 +948,23 @@ func TestInstancesMemory(t *testing.T) {
 			}
 		}
 	}
+}
+
+// TestInstancesMemory checks that the points of instances and lists of cells are in memory of their own.
+func TestInstancesMemory(t *testing.T) {
+	p := programOf(t, "array A 3/array B 2 4/part/for 0 2/for 0 2/A[i]=(A[j]+B[i,j])/A[j]=({i}-1)/part/A[0]=1")
+	kept := copyProgram(p)
+	var lists [][]int
+	for range 2 {
+		list := impl.ProgramInstances(p)
+		_ = append(list, impl.Instance{Part: 7})
+		for _, x := range list {
+			lists = append(lists, x.Point)
+			reads, _, _ := impl.InstanceCells(p, x)
+			lists = append(lists, reads)
+		}
+	}
+	checkOwnMemory(t, lists)
 	if !impl.ProgramSame(p, kept) {
 		t.Errorf("the program is changed to %v", p)
 	}
