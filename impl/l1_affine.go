@@ -108,15 +108,25 @@ func VarAffine(v int) (Affine, bool) {
 	if !varValid(v) {
 		return Affine{}, false
 	}
-	var x linear
-	x.coefs[v] = 1
-	return x.affine()
+	return variable(v).affine()
 }
 
 // linear is an affine expression that need not be within the limits, so that only final results are checked.
 type linear struct {
 	coefs    [MaxVars]int
 	constant int
+}
+
+// variable returns the expression that is the variable v.
+func variable(v int) linear {
+	var x linear
+	x.coefs[v] = 1
+	return x
+}
+
+// constant returns the expression that is the number n.
+func constant(n int) linear {
+	return linear{constant: n}
 }
 
 // linearOf returns the valid expression a as a linear, and whether a is valid.
@@ -133,6 +143,35 @@ func linearOf(a Affine) (linear, bool) {
 func linearWithin(a Affine, loops int) (linear, bool) {
 	x, ok := linearOf(a)
 	return x, ok && x.depth() <= loops
+}
+
+// linears returns valid expressions as linears.
+func linears(list []Affine) []linear {
+	var result []linear
+	for _, a := range list {
+		x, _ := linearOf(a)
+		result = append(result, x)
+	}
+	return result
+}
+
+// affines returns expressions in new memory; one that is beyond the limits becomes the zero value, which is not valid.
+func affines(list []linear) []Affine {
+	var result []Affine
+	for _, x := range list {
+		a, _ := x.affine()
+		result = append(result, a)
+	}
+	return result
+}
+
+// rewriteAll returns expressions with each of them changed.
+func rewriteAll(list []linear, change func(linear) linear) []linear {
+	var result []linear
+	for _, x := range list {
+		result = append(result, change(x))
+	}
+	return result
 }
 
 // affine returns x in new memory, and whether x is within the limits.
@@ -177,6 +216,13 @@ func (x linear) replace(v int, y linear) linear {
 	// v is removed before y is added, since y may contain v itself.
 	x.coefs[v] = 0
 	return x.plus(y.times(n))
+}
+
+// makeRoom returns x with the numbers of the variables from v on increased by 1, if the last variable is not used.
+func (x linear) makeRoom(v int) linear {
+	copy(x.coefs[v+1:], x.coefs[v:])
+	x.coefs[v] = 0
+	return x
 }
 
 // depth returns the number of variables up to the last one with a coefficient.

@@ -254,19 +254,26 @@ func denseProgram(r *rand.Rand) impl.Program {
 			}
 			x.Nest = append(x.Nest, impl.Loop{Lo: []impl.Affine{lo}, Hi: side(r.Intn(3) + 1)})
 		}
-		for range 1 + r.Intn(3) {
-			s := impl.Stmt{Write: randomElement(r, p.Arrays, count), Value: numExpr(r.Intn(100))}
-			for range r.Intn(3) {
-				s.Value = nodeExpr(impl.ExprAdd+r.Intn(3), impl.Expr{Kind: impl.ExprRead, Read: randomElement(r, p.Arrays, count)}, s.Value)
-			}
-			if r.Intn(4) == 0 {
-				s.Value = impl.Expr{Kind: impl.ExprRead, Read: copyAccess(s.Write)}
-			}
-			x.Body = append(x.Body, s)
-		}
+		x.Body = denseBody(r, p.Arrays, count)
 		p.Parts = append(p.Parts, x)
 	}
 	return p
+}
+
+// denseBody returns statements within a number of loops that mostly access elements of the arrays.
+func denseBody(r *rand.Rand, arrays []impl.Array, loops int) []impl.Stmt {
+	var body []impl.Stmt
+	for range 1 + r.Intn(3) {
+		s := impl.Stmt{Write: randomElement(r, arrays, loops), Value: numExpr(r.Intn(100))}
+		for range r.Intn(3) {
+			s.Value = nodeExpr(impl.ExprAdd+r.Intn(3), impl.Expr{Kind: impl.ExprRead, Read: randomElement(r, arrays, loops)}, s.Value)
+		}
+		if r.Intn(4) == 0 {
+			s.Value = impl.Expr{Kind: impl.ExprRead, Read: copyAccess(s.Write)}
+		}
+		body = append(body, s)
+	}
+	return body
 }
 
 // seen counts what programs have, so that the tests show that they do not lack it.

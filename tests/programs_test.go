@@ -901,17 +901,22 @@ func appendToProgram(p *impl.Program) {
 // TestProgramMemory checks that results are in memory of their own.
 func TestProgramMemory(t *testing.T) {
 	lines := "array A 3/array B 2 4/part/for 0 2/for 0,i 2,2/A[i]=(A[j]+B[i,j])/A[j]=({i}-1)/part/A[0]=1"
-	var programs []*impl.Program
+	p, q, x := programOf(t, lines), programOf(t, lines), programOf(t, lines)
+	checkOwnPrograms(t, "ParseProgram", []*impl.Program{&p, &q, &x})
+}
+
+// checkOwnPrograms changes the numbers of programs and appends to their lists, which must not change other numbers of any of them.
+func checkOwnPrograms(t *testing.T, what string, programs []*impl.Program) {
+	t.Helper()
 	var wanted []impl.Program
 	number := 100
-	for range 3 {
-		p := programOf(t, lines)
-		changed := copyProgram(p)
+	for _, p := range programs {
+		changed := copyProgram(*p)
 		for _, n := range numbersOf(&changed) {
 			number++
 			*n = number
 		}
-		programs, wanted = append(programs, &p), append(wanted, changed)
+		wanted = append(wanted, changed)
 	}
 	number = 100
 	for _, p := range programs {
@@ -923,7 +928,7 @@ func TestProgramMemory(t *testing.T) {
 	}
 	for n, p := range programs {
 		if !impl.ProgramSame(*p, wanted[n]) {
-			t.Errorf("the program %d shares memory: %v", n, *p)
+			t.Errorf("%s: the program %d shares memory: %v", what, n, *p)
 		}
 	}
 }
