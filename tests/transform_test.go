@@ -911,27 +911,32 @@ func TestChangesMemory(t *testing.T) {
 	}
 }
 
+// addSpares puts other elements behind those of the lists of a program, in which each part must have a loop, and returns a function that gives the text of all of them.
+func addSpares(p *impl.Program) func() string {
+	p.Arrays = append(p.Arrays, impl.Array{Name: "X", Dims: []int{9}})[:len(p.Arrays)]
+	p.Arrays[0].Dims = append(p.Arrays[0].Dims, 9)[:len(p.Arrays[0].Dims)]
+	p.Parts = append(p.Parts, impl.Part{Nest: []impl.Loop{{Lo: side(9)}}})[:len(p.Parts)]
+	for n := range p.Parts {
+		x := &p.Parts[n]
+		x.Nest = append(x.Nest, impl.Loop{Lo: side(9)})[:len(x.Nest)]
+		x.Body = append(x.Body, assign(numExpr(9)))[:len(x.Body)]
+		x.Nest[0].Lo = append(x.Nest[0].Lo, lin(9))[:1]
+		x.Nest[0].Lo[0].Coefs = append(x.Nest[0].Lo[0].Coefs, 9)[:4]
+	}
+	return func() string {
+		list := fmt.Sprint(*p, p.Arrays[:len(p.Arrays)+1], p.Arrays[0].Dims[:len(p.Arrays[0].Dims)+1], p.Parts[:len(p.Parts)+1])
+		for _, x := range p.Parts {
+			list += fmt.Sprint(x.Nest[:len(x.Nest)+1], x.Body[:len(x.Body)+1], x.Nest[0].Lo[:2], x.Nest[0].Lo[0].Coefs[:5])
+		}
+		return list
+	}
+}
+
 // TestChangesArguments checks that no function changes an argument or the memory behind it.
 func TestChangesArguments(t *testing.T) {
 	for _, text := range memoryChanges() {
 		p := programOf(t, memoryLines)
-		p.Arrays = append(p.Arrays, impl.Array{Name: "X", Dims: []int{9}})[:2]
-		p.Arrays[0].Dims = append(p.Arrays[0].Dims, 9)[:1]
-		p.Parts = append(p.Parts, impl.Part{Nest: []impl.Loop{{Lo: side(9)}}})[:2]
-		for n := range p.Parts {
-			x := &p.Parts[n]
-			x.Nest = append(x.Nest, impl.Loop{Lo: side(9)})[:2]
-			x.Body = append(x.Body, assign(numExpr(9)))[:len(x.Body)]
-			x.Nest[0].Lo = append(x.Nest[0].Lo, lin(9))[:1]
-			x.Nest[0].Lo[0].Coefs = append(x.Nest[0].Lo[0].Coefs, 9)[:4]
-		}
-		whole := func() string {
-			list := fmt.Sprint(p, p.Arrays[:3], p.Arrays[0].Dims[:2], p.Parts[:3])
-			for _, x := range p.Parts {
-				list += fmt.Sprint(x.Nest[:3], x.Body[:len(x.Body)+1], x.Nest[0].Lo[:2], x.Nest[0].Lo[0].Coefs[:5])
-			}
-			return list
-		}
+		whole := addSpares(&p)
 		kept := whole()
 		if _, ok := changeOf(text).call(p); !ok || whole() != kept {
 			t.Errorf("%s changes its argument from %s to %s, or returns %v", text, kept, whole(), ok)
